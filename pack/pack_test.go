@@ -612,7 +612,7 @@ func TestTextIsNewMemory(t *testing.T) {
 }
 
 // R3: objects have nothing in common, one that was copied from another neither.
-func TestObjectsHaveNothingInCommon(t *testing.T) {
+func TestWritersHaveNothingInCommon(t *testing.T) {
 	var one pack.Writer
 	one.Text([]byte("abcdefghij"))
 	other := one
@@ -625,7 +625,24 @@ func TestObjectsHaveNothingInCommon(t *testing.T) {
 	holds(t, &other, "\x0aabcdefghij\x02")
 	holds(t, &last, "\x0aabcdefghij\x01\x03\x04")
 	failed(t, &one, api.ErrAmount)
+}
 
+// R3: a writer may be set back to an earlier copy of itself, and a later copy stays as it is.
+func TestWriterIsSetBack(t *testing.T) {
+	var w pack.Writer
+	w.Text([]byte("abcdefghij"))
+	early := w
+	w.Uint(1)
+	late := w
+	w = early
+	w.Uint(2)
+	holds(t, &early, "\x0aabcdefghij")
+	holds(t, &late, "\x0aabcdefghij\x01")
+	holds(t, &w, "\x0aabcdefghij\x02")
+}
+
+// R3
+func TestReadersHaveNothingInCommon(t *testing.T) {
 	r := read("\x05\x06\x07")
 	r.Uint()
 	s := *r

@@ -9,9 +9,15 @@ import (
 
 // Writer keeps what was written; its zero value has written nothing.
 type Writer struct {
-	b     []byte
-	e     api.Errno
-	owner *Writer // whose b may grow in its spare room
+	b    []byte
+	e    api.Errno
+	room *room
+}
+
+// room is the memory behind a writer's bytes: only its owner may write there, and only from that place on.
+type room struct {
+	owner *Writer
+	from  int
 }
 
 // Uint writes a number.
@@ -70,11 +76,12 @@ func (w *Writer) put(b ...byte) {
 	if w.e != api.OK {
 		return
 	}
-	if w.owner != w {
-		// A Writer that was copied as a value must not write over the other one's bytes.
-		w.b, w.owner = bytes.Clone(w.b), w
+	// A Writer that was copied as a value, or set back to a copy, must not write over the other one's bytes.
+	if w.room == nil || w.room.owner != w || w.room.from != len(w.b) {
+		w.b, w.room = bytes.Clone(w.b), &room{owner: w}
 	}
 	w.b = append(w.b, b...)
+	w.room.from = len(w.b)
 }
 
 // fail keeps the first error; what was written is never told again.
